@@ -1,7 +1,9 @@
 package tests
 
 import (
+	"fmt"
 	"reflect"
+	"slices"
 	"strings"
 	"testing"
 	"unsafe"
@@ -31,4 +33,68 @@ func long(many int) string {
 		b.WriteByte(byte(i*7 + i/256))
 	}
 	return b.String()
+}
+
+// span is the memory of a list, up to its capacity.
+type span struct {
+	from uintptr
+	to   uintptr
+}
+
+// spansOf are the spans of all lists in a value, and of the lists within these.
+func spansOf(v any) []span {
+	var out []span
+	var walk func(reflect.Value)
+	walk = func(v reflect.Value) {
+		switch v.Kind() {
+		case reflect.Struct:
+			for i := range v.NumField() {
+				walk(v.Field(i))
+			}
+		case reflect.Slice:
+			if size := uintptr(v.Cap()) * v.Type().Elem().Size(); size > 0 {
+				out = append(out, span{from: v.Pointer(), to: v.Pointer() + size})
+			}
+			for i := range v.Len() {
+				walk(v.Index(i))
+			}
+		}
+	}
+	walk(reflect.ValueOf(v))
+	return out
+}
+
+// newMemory tells whether no two lists of an answer share any memory, and none shares any with what was handed in.
+func newMemory(answer any, handed ...any) bool {
+	own := spansOf(answer)
+	others := slices.Clone(own)
+	for _, one := range handed {
+		others = append(others, spansOf(one)...)
+	}
+	for i, one := range own {
+		for _, other := range others[i+1:] {
+			if one.from < other.to && other.from < one.to {
+				return false
+			}
+		}
+	}
+	return true
+}
+
+// alike tells whether two values print alike: an empty list and none are the same.
+func alike(t *testing.T, what string, got any, want any) {
+	t.Helper()
+	if g, w := fmt.Sprintf("%+v", got), fmt.Sprintf("%+v", want); g != w {
+		t.Errorf("%s: got %s, want %s", what, g, w)
+	}
+}
+
+// dice draws the same numbers in every run.
+type dice uint64
+
+func (d *dice) draw(many int) int {
+	*d ^= *d << 13
+	*d ^= *d >> 7
+	*d ^= *d << 17
+	return int(*d % dice(many))
 }
