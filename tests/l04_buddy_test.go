@@ -407,7 +407,7 @@ func rightByWords(b impl.Buddy) bool {
 			return false
 		}
 		size := sizeOf(one.Order)
-		if one.At < 0 || one.At+size > sizeOf(b.Order) || one.At%size != 0 {
+		if one.At < 0 || one.At > sizeOf(b.Order)-size || one.At%size != 0 {
 			return false
 		}
 		if i > 0 && one.At <= b.Free[i-1].At {
