@@ -22,6 +22,9 @@ func refusedKernel(t *testing.T, what string, k impl.Kernel) {
 		faulted(t, what+": kids", impl.KidsOf(k, 15, h), impl.ErrForm)
 		faulted(t, what+": info", impl.InfoOf(k, 15, h), impl.ErrForm)
 		faulted(t, what+": room", impl.RoomOf(k, 15, h), impl.ErrForm)
+		faulted(t, what+": peek", impl.Peek(k, 15, h, 0), impl.ErrForm)
+		faulted(t, what+": poke", impl.Poke(k, h.By, h, 0, 0), impl.ErrForm)
+		faulted(t, what+": fill", impl.Fill(k, h.By, h, 0), impl.ErrForm)
 	}
 	same(t, what+": not changed", fmt.Sprintf("%+v", k), before)
 }
