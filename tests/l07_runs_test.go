@@ -205,7 +205,7 @@ func TestWordsOfEachMutant(t *testing.T) {
 		right := kernelRightByWords(k)
 		many[right]++
 		h := segs[d.draw(len(segs))]
-		if right && d.draw(10) == 0 {
+		if right {
 			checkWords(t, &d, k, h.By, h)
 		}
 		for what, out := range map[string]impl.KernOut{
