@@ -25,6 +25,11 @@ func refusedKernel(t *testing.T, what string, k impl.Kernel) {
 		faulted(t, what+": peek", impl.Peek(k, 15, h, 0), impl.ErrForm)
 		faulted(t, what+": poke", impl.Poke(k, h.By, h, 0, 0), impl.ErrForm)
 		faulted(t, what+": fill", impl.Fill(k, h.By, h, 0), impl.ErrForm)
+		faulted(t, what+": map in", impl.MapIn(k, h.By, h, 0, h, 0), impl.ErrForm)
+		faulted(t, what+": map out", impl.MapOut(k, h.By, h, 0), impl.ErrForm)
+		faulted(t, what+": load", impl.Load(k, h.By, h, 0, 0), impl.ErrForm)
+		faulted(t, what+": store", impl.Store(k, h.By, h, 0, 0, 0), impl.ErrForm)
+		alike(t, what+": stale", impl.Stale(k, h), []int64(nil))
 	}
 	same(t, what+": not changed", fmt.Sprintf("%+v", k), before)
 }
