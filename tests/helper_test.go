@@ -89,6 +89,34 @@ func alike(t *testing.T, what string, got any, want any) {
 	}
 }
 
+// equal tells whether two values are alike, part by part: an empty list and none are the same.
+func equal(a any, b any) bool {
+	return equalValues(reflect.ValueOf(a), reflect.ValueOf(b))
+}
+
+func equalValues(a reflect.Value, b reflect.Value) bool {
+	switch a.Kind() {
+	case reflect.Struct:
+		for i := range a.NumField() {
+			if !equalValues(a.Field(i), b.Field(i)) {
+				return false
+			}
+		}
+		return true
+	case reflect.Slice:
+		if a.Len() != b.Len() {
+			return false
+		}
+		for i := range a.Len() {
+			if !equalValues(a.Index(i), b.Index(i)) {
+				return false
+			}
+		}
+		return true
+	}
+	return a.Equal(b)
+}
+
 // dice draws the same numbers in every run.
 type dice uint64
 
