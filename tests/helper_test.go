@@ -126,3 +126,13 @@ func (d *dice) draw(many int) int {
 	*d ^= *d << 17
 	return int(*d % dice(many))
 }
+
+// cameUp asks that each of these came up ten times in what was drawn: else it was not tried.
+func cameUp(t *testing.T, many map[string]int, each ...string) {
+	t.Helper()
+	for _, what := range each {
+		if many[what] < 10 {
+			t.Errorf("%s: only %d times of %v", what, many[what], many)
+		}
+	}
+}

@@ -15,6 +15,8 @@ func refusedKernel(t *testing.T, what string, k impl.Kernel) {
 	same(t, what+": right by the document's words", kernelRightByWords(k), false)
 	same(t, what+": right", impl.KernelRight(k), false)
 	same(t, what+": root", impl.RootOf(k), impl.Handle{})
+	same(t, what+": seen", impl.SeenBy(k, 0)+impl.SeenBy(k, 15), "")
+	alike(t, what+": live", impl.LiveOf(k), []impl.Handle(nil))
 	for _, h := range append(liveOf(k), impl.Handle{}) {
 		alike(t, what+": find", impl.Find(k, h), impl.Obj{})
 		faulted(t, what+": make", impl.Make(k, 0, h, impl.KdSpace, 0, 0), impl.ErrForm)
@@ -30,6 +32,7 @@ func refusedKernel(t *testing.T, what string, k impl.Kernel) {
 		faulted(t, what+": load", impl.Load(k, h.By, h, 0, 0), impl.ErrForm)
 		faulted(t, what+": store", impl.Store(k, h.By, h, 0, 0, 0), impl.ErrForm)
 		alike(t, what+": stale", impl.Stale(k, h), []int64(nil))
+		alike(t, what+": spread", impl.Spread(k, h), []int64(nil))
 	}
 	same(t, what+": not changed", fmt.Sprintf("%+v", k), before)
 }

@@ -209,11 +209,7 @@ func TestLongRunsOfCalls(t *testing.T) {
 	for word := 1; word <= 12; word++ {
 		want = append(want, fmt.Sprint(word, " 0"), fmt.Sprint(word, " 6"))
 	}
-	for _, what := range want {
-		if many[what] < 10 {
-			t.Errorf("%s: only %d times of %v", what, many[what], many)
-		}
-	}
+	cameUp(t, many, want...)
 }
 
 // Runs by RunCalls, each held against the document's words, and against the calls one by one.
